@@ -99,7 +99,9 @@ func TestNoSpots(t *testing.T) {
 	}
 }
 
-func TestSpotsOfWrongPlans(t *testing.T) {
+// moreWrongPlans adds to wrongPlans the edges of each field beside those of the
+// other one.
+func moreWrongPlans() []impl.Plan {
 	plans := wrongPlans()
 	for _, c := range rightSizes() {
 		for _, tasks := range []int64{0, -1, c.size + 1, math.MaxInt64, math.MinInt64} {
@@ -111,7 +113,11 @@ func TestSpotsOfWrongPlans(t *testing.T) {
 			plans = append(plans, impl.Plan{Size: size, Tasks: tasks})
 		}
 	}
-	for _, p := range plans {
+	return plans
+}
+
+func TestSpotsOfWrongPlans(t *testing.T) {
+	for _, p := range moreWrongPlans() {
 		for n := int64(-2); n <= 33; n++ {
 			checkNoSpot(t, p, n)
 		}
