@@ -59,18 +59,29 @@ func sameRing(a, b impl.Ring) bool {
 	return slices.Equal(a.Words, b.Words) && a.Head == b.Head && a.Tail == b.Tail && a.Left == b.Left
 }
 
-// checkRingOk also looks whether the words are as they were, to the end of the
-// room behind them.
+// checkLeaves looks whether the lists that a call is given are as they were, to
+// the end of the room behind them.
+func checkLeaves(t *testing.T, name string, call func(), lists ...[]int64) {
+	t.Helper()
+	var before [][]int64
+	for _, list := range lists {
+		before = append(before, slices.Clone(list[:cap(list)]))
+	}
+	call()
+	for i, list := range lists {
+		if room := list[:cap(list)]; !slices.Equal(room, before[i]) {
+			t.Errorf("%s has made %v of %v", name, room, before[i])
+		}
+	}
+}
+
 func checkRingOk(t *testing.T, p impl.Plan, r impl.Ring, want bool) {
 	t.Helper()
-	room := r.Words[:cap(r.Words)]
-	before := slices.Clone(room)
-	if got := impl.RingOk(p, r); got != want {
-		t.Errorf("RingOk(%v, %v) is %v, not %v", p, r, got, want)
-	}
-	if !slices.Equal(room, before) {
-		t.Errorf("RingOk(%v, %v) has made %v of %v", p, r, room, before)
-	}
+	checkLeaves(t, "RingOk", func() {
+		if got := impl.RingOk(p, r); got != want {
+			t.Errorf("RingOk(%v, %v) is %v, not %v", p, r, got, want)
+		}
+	}, r.Words)
 }
 
 // checkRing compares the answer of NewRing or FullRing.
@@ -108,20 +119,21 @@ func badWordLists(p impl.Plan) [][]int64 {
 }
 
 // badRings each have one thing that is not right, and a few have all of them.
+// But for that they are full, so that whoever misses it has numbers to tell.
 func badRings(p impl.Plan) []impl.Ring {
 	var rings []impl.Ring
 	for _, words := range badWordLists(p) {
-		r := impl.NewRing(p)
+		r := impl.FullRing(p)
 		r.Words = words
 		rings = append(rings, r)
 	}
 	for _, ticket := range noTickets() {
-		head, tail := impl.NewRing(p), impl.FullRing(p)
+		head, tail := impl.FullRing(p), impl.FullRing(p)
 		head.Head, tail.Tail = ticket, ticket
 		rings = append(rings, head, tail)
 	}
 	for _, left := range badLefts(p) {
-		r := impl.NewRing(p)
+		r := impl.FullRing(p)
 		r.Left = left
 		rings = append(rings, r)
 	}
