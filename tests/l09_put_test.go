@@ -9,10 +9,12 @@ import (
 	"loop.example/g00738/impl"
 )
 
-// putRow is one row of the chapter's table, met in one way: how the ring and
-// the hand of putBase are ahead of it, and what of these is another one then.
-type putRow struct {
-	name        string
+// ringStep is PutStep or GetStep.
+type ringStep func(p impl.Plan, r impl.Ring, h impl.Hand) (impl.Ring, impl.Hand, bool)
+
+// ringRow is one row of the table of chapter 9 or 10, met in one way: how a ring
+// and a hand are ahead of it, and what of these is another one then.
+type ringRow struct {
 	at          int64
 	ahead, then func(r *impl.Ring, h *impl.Hand)
 }
@@ -35,8 +37,8 @@ func putBase() (impl.Ring, impl.Hand) {
 
 // mayRows load one word each, which stands at the place, from a hand with
 // another one.
-func mayRows() []putRow {
-	var rows []putRow
+func mayRows() []ringRow {
+	var rows []ringRow
 	for _, c := range []struct{ word, at int64 }{
 		{15, impl.AtSwap}, // free, of cycle 0, Safe
 		{7, impl.AtHead},  // the same, not Safe
@@ -50,8 +52,8 @@ func mayRows() []putRow {
 		{16000007, impl.AtTail},
 		{16000015, impl.AtTail},
 	} {
-		rows = append(rows, putRow{
-			"load", impl.AtLoad,
+		rows = append(rows, ringRow{
+			impl.AtLoad,
 			func(r *impl.Ring, h *impl.Hand) { r.Words[4], h.Word = c.word, 25 },
 			func(r *impl.Ring, h *impl.Hand) { h.At, h.Word = c.at, c.word },
 		})
@@ -59,15 +61,15 @@ func mayRows() []putRow {
 	return rows
 }
 
-func headRows() []putRow {
-	var rows []putRow
+func headRows() []ringRow {
+	var rows []ringRow
 	for _, c := range []struct{ head, ticket, at int64 }{
 		{10, 10, impl.AtSwap}, {9, 10, impl.AtSwap}, {0, 10, impl.AtSwap}, {0, 0, impl.AtSwap},
 		{11, 10, impl.AtTail}, {12, 10, impl.AtTail}, {maxTicket, 10, impl.AtTail}, {1, 0, impl.AtTail},
 		{maxTicket, maxTicket, impl.AtSwap}, {maxTicket, maxTicket - 1, impl.AtTail},
 	} {
-		rows = append(rows, putRow{
-			"head", impl.AtHead,
+		rows = append(rows, ringRow{
+			impl.AtHead,
 			func(r *impl.Ring, h *impl.Hand) { r.Head, h.Ticket, h.Head = c.head, c.ticket, maxTicket+1-c.head },
 			func(r *impl.Ring, h *impl.Hand) { h.At = c.at },
 		})
@@ -77,14 +79,14 @@ func headRows() []putRow {
 
 // swapRows find the word that the hand has, or another one. Whether it may be
 // taken is asked by load alone.
-func swapRows() []putRow {
-	var rows []putRow
+func swapRows() []ringRow {
+	var rows []ringRow
 	for _, c := range []struct{ stands, word int64 }{
 		{15, 15}, {7, 7}, {31, 31}, {26, 26}, {27, 27}, {0, 0}, {16000015, 16000015},
 		{15, 7}, {7, 15}, {31, 15}, {15, 31}, {27, 15}, {15, 27}, {14, 15}, {0, 1}, {15, 24}, {16000015, 16000014},
 	} {
-		rows = append(rows, putRow{
-			"swap", impl.AtSwap,
+		rows = append(rows, ringRow{
+			impl.AtSwap,
 			func(r *impl.Ring, h *impl.Hand) { r.Words[4], h.Word = c.stands, c.word },
 			func(r *impl.Ring, h *impl.Hand) {
 				h.At = impl.AtLoad
@@ -97,11 +99,11 @@ func swapRows() []putRow {
 	return rows
 }
 
-func tailRows() []putRow {
-	var rows []putRow
+func tailRows() []ringRow {
+	var rows []ringRow
 	for _, tail := range []int64{0, 1, 9, 10, 11, maxTicket - 2, maxTicket - 1} {
-		rows = append(rows, putRow{
-			"tail", impl.AtTail,
+		rows = append(rows, ringRow{
+			impl.AtTail,
 			func(r *impl.Ring, h *impl.Hand) { r.Tail, h.Ticket = tail, 3 },
 			func(r *impl.Ring, h *impl.Hand) { r.Tail, h.Ticket, h.At = tail+1, tail, impl.AtLoad },
 		})
@@ -109,16 +111,16 @@ func tailRows() []putRow {
 	return rows
 }
 
-func leftRows() []putRow {
-	var rows []putRow
+func leftRows() []ringRow {
+	var rows []ringRow
 	for _, left := range []int64{11, 10, 1, 0, -1, -maxLook + 1, -maxLook} {
 		ahead := func(r *impl.Ring, h *impl.Hand) { r.Left = left }
-		rows = append(rows, putRow{"look", impl.AtLook, ahead, func(r *impl.Ring, h *impl.Hand) {
+		rows = append(rows, ringRow{impl.AtLook, ahead, func(r *impl.Ring, h *impl.Hand) {
 			h.At = impl.AtSet
 			if left == 11 {
 				h.At = impl.AtDone
 			}
-		}}, putRow{"set", impl.AtSet, ahead, func(r *impl.Ring, h *impl.Hand) {
+		}}, ringRow{impl.AtSet, ahead, func(r *impl.Ring, h *impl.Hand) {
 			r.Left, h.At = 11, impl.AtDone
 		}})
 	}
@@ -130,14 +132,14 @@ func cloned(r impl.Ring) impl.Ring {
 	return r
 }
 
-// checkPut writes all over the answer, to the end of the room behind it, and
+// checkStep writes all over the answer, to the end of the room behind it, and
 // looks whether any of that is in the ring that was given.
-func checkPut(t *testing.T, p impl.Plan, r impl.Ring, h impl.Hand, ring impl.Ring, hand impl.Hand) {
+func checkStep(t *testing.T, name string, step ringStep, p impl.Plan, r impl.Ring, h impl.Hand, ring impl.Ring, hand impl.Hand) {
 	t.Helper()
-	checkLeaves(t, "PutStep", func() {
-		gotRing, gotHand, is := impl.PutStep(p, r, h)
+	checkLeaves(t, name, func() {
+		gotRing, gotHand, is := step(p, r, h)
 		if !is || !sameRing(gotRing, ring) || gotHand != hand {
-			t.Errorf("PutStep(%v, %v, %+v) is %v, %+v, %v, not %v, %+v", p, r, h, gotRing, gotHand, is, ring, hand)
+			t.Errorf("%s(%v, %v, %+v) is %v, %+v, %v, not %v, %+v", name, p, r, h, gotRing, gotHand, is, ring, hand)
 		}
 		room := gotRing.Words[:cap(gotRing.Words)]
 		for i := range room {
@@ -146,14 +148,24 @@ func checkPut(t *testing.T, p impl.Plan, r impl.Ring, h impl.Hand, ring impl.Rin
 	}, r.Words)
 }
 
-func checkNoPut(t *testing.T, p impl.Plan, r impl.Ring, h impl.Hand) {
+func checkNoStep(t *testing.T, name string, step ringStep, p impl.Plan, r impl.Ring, h impl.Hand) {
 	t.Helper()
-	checkLeaves(t, "PutStep", func() {
-		ring, hand, is := impl.PutStep(p, r, h)
+	checkLeaves(t, name, func() {
+		ring, hand, is := step(p, r, h)
 		if is || len(ring.Words) != 0 || !sameRing(ring, impl.Ring{}) || hand != (impl.Hand{}) {
-			t.Errorf("PutStep(%v, %v, %+v) is %v, %+v, %v", p, r, h, ring, hand, is)
+			t.Errorf("%s(%v, %v, %+v) is %v, %+v, %v", name, p, r, h, ring, hand, is)
 		}
 	}, r.Words)
+}
+
+func checkPut(t *testing.T, p impl.Plan, r impl.Ring, h impl.Hand, ring impl.Ring, hand impl.Hand) {
+	t.Helper()
+	checkStep(t, "PutStep", impl.PutStep, p, r, h, ring, hand)
+}
+
+func checkNoPut(t *testing.T, p impl.Plan, r impl.Ring, h impl.Hand) {
+	t.Helper()
+	checkNoStep(t, "PutStep", impl.PutStep, p, r, h)
 }
 
 // checkPutIf asks for what the table tells if it can be done, else for nothing.
@@ -457,53 +469,54 @@ func TestPutBegun(t *testing.T) {
 	}
 }
 
-// walk follows the putting of one number, step by step.
+// walk follows the putting or the getting of one number, step by step.
 type walk struct {
-	p impl.Plan
-	r impl.Ring
-	h impl.Hand
+	step ringStep
+	p    impl.Plan
+	r    impl.Ring
+	h    impl.Hand
 }
 
 func beginWalk(p impl.Plan, r impl.Ring, index int64) *walk {
 	h := impl.Hand{Call: impl.Call{Code: 1, Value: 5}, Ring: 1, Ticket: 3, Word: 2, Tail: 1, Head: 1, Begin: 8}
-	return &walk{p: p, r: r, h: impl.PutBegun(h, index)}
+	return &walk{step: impl.PutStep, p: p, r: r, h: impl.PutBegun(h, index)}
 }
 
 // to makes a step for each of these and looks where it leads.
 func (w *walk) to(t *testing.T, ats ...int64) {
 	t.Helper()
 	for i, at := range ats {
-		ring, hand, is := impl.PutStep(w.p, w.r, w.h)
+		ring, hand, is := w.step(w.p, w.r, w.h)
 		if !is || hand.At != at {
-			t.Fatalf("step %d, PutStep(%v, %v, %+v), is %v, %+v, %v, not at %d", i, w.p, w.r, w.h, ring, hand, is, at)
+			t.Fatalf("step %d of %v, %v, %+v is %v, %+v, %v, not at %d", i, w.p, w.r, w.h, ring, hand, is, at)
 		}
 		w.r, w.h = ring, hand
 	}
 }
 
-// putMet counts which steps have led from where to where.
-type putMet map[[2]int64]int
+// waysMet counts which steps have led from where to where.
+type waysMet map[[2]int64]int
 
-// putAlone goes on until the number is in, with nobody else at the ring.
-func putAlone(t *testing.T, p impl.Plan, r impl.Ring, index int64, met putMet) *walk {
+// alone goes on until it is at the end, with nobody else at the ring.
+func (w *walk) alone(t *testing.T, end int64, met waysMet) {
 	t.Helper()
-	w := beginWalk(p, r, index)
-	for steps := int64(0); w.h.At != impl.AtDone; steps++ {
-		ring, hand, is := impl.PutStep(p, w.r, w.h)
-		if !is || steps > 40*p.Size+40 {
-			t.Fatalf("%v: putting %d into %v is at %v, %+v after %d steps", p, index, r, w.r, w.h, steps)
+	begun := w.r
+	for steps := int64(0); w.h.At != end; steps++ {
+		ring, hand, is := w.step(w.p, w.r, w.h)
+		if !is || steps > 40*w.p.Size+40 {
+			t.Fatalf("%v: what began in %v is at %v, %+v after %d steps", w.p, begun, w.r, w.h, steps)
 		}
 		met[[2]int64{w.h.At, hand.At}]++
 		w.r, w.h = ring, hand
 	}
-	return w
 }
 
 // checkPutAlone holds promise 9 for one number: it is the last one, those that
 // were there are as they were, and but for what was touched all is the same.
-func checkPutAlone(t *testing.T, p impl.Plan, r impl.Ring, index int64, met putMet) impl.Ring {
+func checkPutAlone(t *testing.T, p impl.Plan, r impl.Ring, index int64, met waysMet) impl.Ring {
 	t.Helper()
-	w := putAlone(t, p, r, index, met)
+	w := beginWalk(p, r, index)
+	w.alone(t, impl.AtDone, met)
 	items := append(impl.ItemsOf(p, r), index)
 	if got := impl.ItemsOf(p, w.r); !slices.Equal(got, items) {
 		t.Fatalf("%v: %d put into %v makes the items %v of %v, not %v", p, index, r, got, w.r, items)
@@ -542,8 +555,8 @@ func TestPutIntoNewRings(t *testing.T) {
 	for _, p := range rightPlans() {
 		up, down := impl.NewRing(p), impl.NewRing(p)
 		for n := range p.Size {
-			up = checkPutAlone(t, p, up, n, putMet{})
-			down = checkPutAlone(t, p, down, p.Size-1-n, putMet{})
+			up = checkPutAlone(t, p, up, n, waysMet{})
+			down = checkPutAlone(t, p, down, p.Size-1-n, waysMet{})
 		}
 		if !sameRing(up, impl.FullRing(p)) {
 			t.Errorf("%v: all numbers put into a new ring make %v", p, up)
@@ -561,10 +574,10 @@ func TestPutIntoRingsMovedOn(t *testing.T) {
 		for held := range p.Size {
 			r := impl.NewRing(p)
 			for n := range held {
-				r = checkPutAlone(t, p, r, n, putMet{})
+				r = checkPutAlone(t, p, r, n, waysMet{})
 			}
 			for n := range 7 * p.Size {
-				r = checkPutAlone(t, p, r, (held+n)%(held+1), putMet{})
+				r = checkPutAlone(t, p, r, (held+n)%(held+1), waysMet{})
 				r = takenOut(p, r)
 				if int64(len(impl.ItemsOf(p, r))) != held {
 					t.Fatalf("%v: %v has not %d items", p, r, held)
@@ -583,7 +596,7 @@ func TestPutUpToTheLastTicket(t *testing.T) {
 		r := impl.NewRing(p)
 		r.Head, r.Tail = maxTicket-p.Size, maxTicket-p.Size
 		for n := range p.Size {
-			r = checkPutAlone(t, p, r, n, putMet{})
+			r = checkPutAlone(t, p, r, n, waysMet{})
 		}
 		checkNoPut(t, p, r, beginWalk(p, r, 0).h)
 	}
@@ -594,7 +607,7 @@ func TestPutUpToTheLastTicket(t *testing.T) {
 // ring with nothing in it, so that there are marks, and entries not Safe.
 func TestPutBesideOthers(t *testing.T) {
 	for _, p := range rightPlans() {
-		chance, r, met := rand.New(rand.NewPCG(19, uint64(p.Size))), impl.NewRing(p), putMet{}
+		chance, r, met := rand.New(rand.NewPCG(19, uint64(p.Size))), impl.NewRing(p), waysMet{}
 		var asleep []int64
 		for range 3000 {
 			switch n := chance.IntN(8); {
@@ -615,29 +628,33 @@ func TestPutBesideOthers(t *testing.T) {
 			}
 			r.Left = chance.Int64N(3*p.Size+1) - 1
 		}
-		checkAllMet(t, p, met)
+		checkAllMet(t, p, met, putWays())
 	}
 }
 
-// checkAllMet looks whether every way was met, but for that of the swap that
-// finds another word: who is alone never goes it.
-func checkAllMet(t *testing.T, p impl.Plan, met putMet) {
-	t.Helper()
-	for _, way := range [][2]int64{
+// putWays are those that one alone goes: the swap finds the word that was read.
+func putWays() [][2]int64 {
+	return [][2]int64{
 		{impl.AtTail, impl.AtLoad},
 		{impl.AtLoad, impl.AtSwap}, {impl.AtLoad, impl.AtHead}, {impl.AtLoad, impl.AtTail},
 		{impl.AtHead, impl.AtSwap}, {impl.AtHead, impl.AtTail},
 		{impl.AtSwap, impl.AtLook},
 		{impl.AtLook, impl.AtDone}, {impl.AtLook, impl.AtSet},
 		{impl.AtSet, impl.AtDone},
-	} {
+	}
+}
+
+// checkAllMet looks whether each of these ways was met, and no other one.
+func checkAllMet(t *testing.T, of any, met waysMet, ways [][2]int64) {
+	t.Helper()
+	for _, way := range ways {
 		if met[way] == 0 {
-			t.Errorf("%v: no step has led from %d to %d", p, way[0], way[1])
+			t.Errorf("%v: no step has led from %d to %d", of, way[0], way[1])
 		}
 		delete(met, way)
 	}
 	if len(met) > 0 {
-		t.Errorf("%v: steps have led on ways that there are not: %v", p, met)
+		t.Errorf("%v: steps have led on ways that there are not: %v", of, met)
 	}
 }
 
